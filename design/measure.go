@@ -1,6 +1,9 @@
 package design
 
-import "maskwright/api"
+import (
+	"maskwright/api"
+	"maskwright/walk"
+)
 
 // tooHeavy stands for all weights that are too large: calls of calls could lead to numbers that no int can hold.
 const tooHeavy = api.MaxWeight + 1
@@ -33,7 +36,7 @@ func (m scale) expr(e api.Expr) size {
 // stmt measures a statement.
 func (m scale) stmt(x api.Stmt) size {
 	s := size{1, 1, 1}
-	if isSet(x) {
+	if walk.Assigns(x) {
 		s = s.with(m.expr(x.To))
 	}
 	for _, e := range x.Args {
@@ -61,11 +64,6 @@ func (m scale) sequence(t api.Temporal) size {
 		s = s.with(m.sequence(kid))
 	}
 	return s
-}
-
-// isSet reports whether a statement has a target.
-func isSet(s api.Stmt) bool {
-	return s.Op == api.Set || s.Op == api.Put
 }
 
 // Funcs returns the weights of all functions; calls of functions that do not come before count nothing.

@@ -5,6 +5,7 @@ import (
 	"strings"
 
 	"maskwright/api"
+	"maskwright/walk"
 )
 
 // shape is what a statement of an operation has: how many Args and Kids, and which other fields, each one with a letter.
@@ -108,7 +109,7 @@ func isKind(kind, last int) bool {
 
 // assigned validates the target of a Set or Put.
 func (c scope) assigned(s api.Stmt) api.Errno {
-	if !isSet(s) {
+	if !walk.Assigns(s) {
 		return api.OK
 	}
 	if e := c.expr(s.To); e != api.OK {
@@ -128,7 +129,7 @@ func (c scope) target(e api.Expr) api.Errno {
 	if e.Op == api.Cat {
 		return each(e.Kids, c.target)
 	}
-	whole, ok := wholeOf(e)
+	whole, ok := walk.Whole(e)
 	if !ok {
 		return api.ErrForm
 	}
@@ -136,32 +137,12 @@ func (c scope) target(e api.Expr) api.Errno {
 	if s.Port == api.In || c.wires != (s.Kind == api.Wire) {
 		return api.ErrType
 	}
-	for _, i := range indicesOf(e) {
+	for _, i := range walk.Indices(e) {
 		if c.wires && i.Op != api.Const {
 			return api.ErrConst
 		}
 	}
 	return api.OK
-}
-
-// wholeOf returns the Ref or the Elem of which an expression is a Slice or a Part, or which it is itself.
-func wholeOf(e api.Expr) (api.Expr, bool) {
-	if e.Op == api.Slice || e.Op == api.Part {
-		e = e.Kids[0]
-	}
-	return e, isNamed(e)
-}
-
-// indicesOf returns the expressions in a place that say which bits and which element it names.
-func indicesOf(e api.Expr) []api.Expr {
-	var list []api.Expr
-	if whole, _ := wholeOf(e); whole.Op == api.Elem {
-		list = append(list, whole.Kids[0])
-	}
-	if e.Op == api.Part {
-		list = append(list, e.Kids[1])
-	}
-	return list
 }
 
 // items validates the items of a Case.

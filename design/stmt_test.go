@@ -5,6 +5,7 @@ import (
 	"testing"
 
 	"maskwright/api"
+	"maskwright/walk"
 )
 
 // names of the operations of statements, in order.
@@ -66,7 +67,7 @@ func localized(s api.Stmt) api.Stmt {
 			s.Args[i] = local(0, 4)
 		}
 	}
-	if isSet(s) {
+	if walk.Assigns(s) {
 		s.To = local(0, 4)
 	}
 	return s
